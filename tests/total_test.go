@@ -1,0 +1,260 @@
+package tests
+
+import (
+	"maps"
+	"math"
+	"math/rand"
+	"reflect"
+	"slices"
+	"strings"
+	"testing"
+
+	"loop.example/g01118/impl"
+)
+
+// The tests of this file are about promise 1: every function returns for all
+// arguments, modifies no argument, and returns equal results for equal ones.
+
+// chapter1 has the functions of chapter 1.
+var chapter1 = map[string]any{
+	"CodeName": impl.CodeName, "ValidFraction": impl.ValidFraction, "FractionOf": impl.FractionOf, "FractionText": impl.FractionText,
+	"AddFraction": impl.AddFraction, "LessFraction": impl.LessFraction, "MulFraction": impl.MulFraction, "DivFraction": impl.DivFraction,
+	"CompareFraction": impl.CompareFraction, "ValidChain": impl.ValidChain, "SameChain": impl.SameChain, "ChainText": impl.ChainText,
+	"ReadChain": impl.ReadChain, "ValidSpread": impl.ValidSpread, "SureSpread": impl.SureSpread, "EvenSpread": impl.EvenSpread,
+	"MixSpreads": impl.MixSpreads, "SpreadAfter": impl.SpreadAfter, "ChanceAfter": impl.ChanceAfter, "ExpectedValue": impl.ExpectedValue,
+	"LazyChain": impl.LazyChain, "MixChains": impl.MixChains, "ThenChain": impl.ThenChain, "SkipChain": impl.SkipChain,
+	"BesideChain": impl.BesideChain, "RenameStates": impl.RenameStates, "IsEven": impl.IsEven, "StepByDraw": impl.StepByDraw,
+	"RunByDraws": impl.RunByDraws,
+}
+
+// pool has arguments of each type, valid and invalid ones.
+func pool(r *rand.Rand) map[reflect.Type][]any {
+	numbers := []any{}
+	for _, n := range []int64{math.MinInt64, -1, 0, 0, 1, 1, 2, 3, 4, 5, 6, 7, 8, 9, 39, 40, 41, 59, 60, 61, 1 << 32, math.MaxInt64} {
+		numbers = append(numbers, n)
+	}
+	fractions := []any{impl.Fraction{}}
+	for _, text := range []string{"0", "1", "2", "1/2", "2/3", "7/3", "2/4", "1/0", "0/2", "x", nines(300), "1/" + nines(300), nines(300) + "/" + tenTo(299), tenTo(300)} {
+		fractions = append(fractions, frac(text))
+	}
+	spreads := []any{longSpread(300), longSpread(20)}
+	for _, p := range invalidSpreads() {
+		if len(p) < 100 {
+			spreads = append(spreads, p)
+		}
+	}
+	chains, texts := []any{}, []any{"", "chain", "chain 1 1\nfrom 1", strings.Repeat("chain ", 700)}
+	for _, c := range invalidChains() {
+		chains = append(chains, c)
+		texts = append(texts, textOf(c))
+	}
+	lists := []any{[]int64(nil), []int64{}, []int64{-1}, []int64{61}, make([]int64, 200), make([]int64, 201)}
+	for range 60 {
+		c := randomChain(r)
+		if r.Intn(2) == 0 {
+			c = smallChain(r, 1+r.Int63n(3))
+		}
+		chains = append(chains, c)
+		texts = append(texts, textOf(c))
+		spreads = append(spreads, randomSpread(r, c.States, 1+r.Int63n(1000)))
+		lists = append(lists, randomParts(r, 1+r.Int63n(6), r.Int63n(60)))
+		order := []int64{}
+		for _, s := range r.Perm(1 + r.Intn(6)) {
+			order = append(order, int64(s))
+		}
+		lists = append(lists, order)
+	}
+	all := map[reflect.Type][]any{}
+	for _, list := range [][]any{numbers, fractions, spreads, chains, texts, lists} {
+		all[reflect.TypeOf(list[0])] = list
+	}
+	return all
+}
+
+// copyOf copies a value with everything that it leads to. All slices get spare
+// memory behind them, which is 0; empty slices become nil or the other way round,
+// if turn is set.
+func copyOf(v reflect.Value, spare int, turn bool) reflect.Value {
+	to := reflect.New(v.Type()).Elem()
+	switch v.Kind() {
+	case reflect.Slice:
+		if v.Len() == 0 && v.IsNil() != turn {
+			return to
+		}
+		to.Set(reflect.MakeSlice(v.Type(), v.Len(), v.Len()+spare))
+		for i := range v.Len() {
+			to.Index(i).Set(copyOf(v.Index(i), spare, turn))
+		}
+	case reflect.Struct:
+		for i := range v.NumField() {
+			to.Field(i).Set(copyOf(v.Field(i), spare, turn))
+		}
+	default:
+		to.Set(v)
+	}
+	return to
+}
+
+// slicesIn calls see for each slice that can be reached from a value.
+func slicesIn(v reflect.Value, see func(reflect.Value)) {
+	switch v.Kind() {
+	case reflect.Slice:
+		see(v)
+		for i := range v.Len() {
+			slicesIn(v.Index(i), see)
+		}
+	case reflect.Struct:
+		for i := range v.NumField() {
+			slicesIn(v.Field(i), see)
+		}
+	}
+}
+
+func spareIsZero(values []reflect.Value) bool {
+	isZero := true
+	for _, v := range values {
+		slicesIn(v, func(list reflect.Value) {
+			for i := list.Len(); i < list.Cap(); i++ {
+				isZero = isZero && list.Slice(0, list.Cap()).Index(i).IsZero()
+			}
+		})
+	}
+	return isZero
+}
+
+// shareMemory reports whether any two slices, with their spare memory, overlap.
+func shareMemory(values []reflect.Value) bool {
+	type span struct{ from, to uintptr }
+	spans := []span{}
+	shared := false
+	for _, v := range values {
+		slicesIn(v, func(list reflect.Value) {
+			one := span{list.Pointer(), list.Pointer() + uintptr(list.Cap())*list.Type().Elem().Size()}
+			for _, other := range spans {
+				shared = shared || one.from < other.to && other.from < one.to
+			}
+			if one.from < one.to {
+				spans = append(spans, one)
+			}
+		})
+	}
+	return shared
+}
+
+// scribble writes into all slices that can be reached from values.
+func scribble(values []reflect.Value) {
+	for _, v := range values {
+		slicesIn(v, func(list reflect.Value) {
+			for i := range list.Len() {
+				if list.Index(i).Kind() == reflect.Int64 {
+					list.Index(i).SetInt(-77)
+				} else if list.Index(i).Type() == reflect.TypeFor[impl.Fraction]() {
+					list.Index(i).Set(reflect.ValueOf(impl.Fraction{Num: "scribbled", Den: "over"}))
+				}
+			}
+		})
+	}
+}
+
+func copies(values []reflect.Value, spare int, turn bool) []reflect.Value {
+	list := []reflect.Value{}
+	for _, v := range values {
+		list = append(list, copyOf(v, spare, turn))
+	}
+	return list
+}
+
+func alike(a, b []reflect.Value) bool {
+	for i := range a {
+		if !reflect.DeepEqual(a[i].Interface(), b[i].Interface()) {
+			return false
+		}
+	}
+	return true
+}
+
+// call calls a function and checks all that promise 1 says of it.
+func call(t *testing.T, name string, f reflect.Value, args []reflect.Value) {
+	t.Helper()
+	defer func() {
+		if problem := recover(); problem != nil {
+			t.Fatalf("%s%v: panic %v", name, args, problem)
+		}
+	}()
+	given := copies(args, 3, false)
+	results := f.Call(given)
+	if !alike(given, copies(args, 3, false)) || !spareIsZero(given) {
+		t.Fatalf("%s%v: an argument has become %v", name, args, given)
+	}
+	if shareMemory(append(given, results...)) {
+		t.Fatalf("%s%v: memory is shared: %v", name, args, results)
+	}
+	before := copies(results, 0, false)
+	scribble(results)
+	again := f.Call(copies(args, 0, true))
+	if !alike(copies(again, 0, false), before) {
+		t.Fatalf("%s%v: got %v, and then %v", name, args, before, again)
+	}
+	last := len(again) - 1
+	if last == 0 || again[last].Int() == impl.OK {
+		return
+	}
+	for _, result := range again[:last] {
+		if !result.IsZero() && !(result.Kind() == reflect.Slice && result.Len() == 0) {
+			t.Fatalf("%s%v: got %v together with an error", name, args, again)
+		}
+	}
+}
+
+func TestAllArguments(t *testing.T) {
+	r := rand.New(rand.NewSource(1))
+	all := pool(r)
+	for _, name := range slices.Sorted(maps.Keys(chapter1)) {
+		f := reflect.ValueOf(chapter1[name])
+		for range 2000 {
+			args := []reflect.Value{}
+			for i := range f.Type().NumIn() {
+				list := all[f.Type().In(i)]
+				args = append(args, reflect.ValueOf(list[r.Intn(len(list))]))
+			}
+			call(t, name, f, args)
+		}
+	}
+}
+
+// TestLongArguments has arguments of a million elements.
+func TestLongArguments(t *testing.T) {
+	const million = 1000000
+	c := readChain(t, exampleText)
+	wide := impl.Chain{States: 2, Total: 3, Weights: [][]int64{make([]int64, million), {3, 0}}}
+	high := impl.Chain{States: million, Total: 3, Weights: make([][]int64, million)}
+	spread := make([]impl.Fraction, million)
+	list := make([]int64, million)
+	number := impl.Fraction{Num: strings.Repeat("7", million), Den: "1"}
+	same(t, "ValidFraction", impl.ValidFraction(number), false)
+	_, got := impl.AddFraction(number, number)
+	same(t, "AddFraction", got, int64(impl.ErrInvalid))
+	for _, long := range []impl.Chain{wide, high} {
+		same(t, "ValidChain", impl.ValidChain(long), false)
+		same(t, "SameChain", impl.SameChain(long, long), true)
+		same(t, "SameChain", impl.SameChain(long, c), false)
+		same(t, "ChainText", impl.ChainText(long), "")
+		_, got = impl.SkipChain(long, 40)
+		same(t, "SkipChain", got, int64(impl.ErrInvalid))
+		_, got = impl.BesideChain(c, long)
+		same(t, "BesideChain", got, int64(impl.ErrInvalid))
+	}
+	same(t, "ValidSpread", impl.ValidSpread(spread), false)
+	_, got = impl.SpreadAfter(c, spread, 1)
+	same(t, "SpreadAfter", got, int64(impl.ErrInvalid))
+	_, got = impl.MixSpreads(spread, spread, frac("1"))
+	same(t, "MixSpreads", got, int64(impl.ErrInvalid))
+	_, got = impl.ExpectedValue(fracs("1"), spread)
+	same(t, "ExpectedValue", got, int64(impl.ErrInvalid))
+	_, got = impl.RenameStates(c, list)
+	same(t, "RenameStates", got, int64(impl.ErrRange))
+	_, got = impl.RunByDraws(c, 0, list)
+	same(t, "RunByDraws", got, int64(impl.ErrRange))
+	_, got = impl.ReadChain(strings.Repeat("chain 1 1\n", million/10))
+	same(t, "ReadChain", got, int64(impl.ErrRange))
+}
