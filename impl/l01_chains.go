@@ -401,11 +401,17 @@ func (a ratio) compare(b ratio) int {
 	return a.num.times(b.den).compare(b.num.times(a.den))
 }
 
+// lowest returns a in lowest terms.
+func (a ratio) lowest() ratio {
+	divisor := a.num.divisorWith(a.den)
+	return ratio{a.num.over(divisor), a.den.over(divisor)}
+}
+
 // fraction returns the Fraction with the value of a, or ErrLimit if it would be
 // too long.
 func (a ratio) fraction() (Fraction, int64) {
-	divisor := a.num.divisorWith(a.den)
-	x := Fraction{a.num.over(divisor).digits(), a.den.over(divisor).digits()}
+	a = a.lowest()
+	x := Fraction{a.num.digits(), a.den.digits()}
 	if max(len(x.Num), len(x.Den)) > MaxDigits {
 		return Fraction{}, ErrLimit
 	}
@@ -844,13 +850,25 @@ func sureSharing(states, s int64) sharing {
 	return sharing{nums, longOf(1)}
 }
 
-// SpreadAfter returns the spread after some steps.
-func SpreadAfter(c Chain, p []Fraction, steps int64) ([]Fraction, int64) {
+// readSpreadOf returns the chances of a spread over the states of c.
+func readSpreadOf(c Chain, p []Fraction) ([]ratio, int64) {
 	chances, ok := readSpread(p)
 	if !ok || !ValidChain(c) {
 		return nil, ErrInvalid
 	}
-	if int64(len(p)) != c.States || !isIn(steps, 0, MaxSteps) {
+	if int64(len(p)) != c.States {
+		return nil, ErrRange
+	}
+	return chances, OK
+}
+
+// SpreadAfter returns the spread after some steps.
+func SpreadAfter(c Chain, p []Fraction, steps int64) ([]Fraction, int64) {
+	chances, code := readSpreadOf(c, p)
+	if code != OK {
+		return nil, code
+	}
+	if !isIn(steps, 0, MaxSteps) {
 		return nil, ErrRange
 	}
 	return writeFractions(shareOut(chances).steps(c, steps).ratios())

@@ -27,6 +27,16 @@ var chapter1 = map[string]any{
 	"RunByDraws": impl.RunByDraws,
 }
 
+// chapter2 has the functions of chapter 2.
+var chapter2 = map[string]any{
+	"CanReach": impl.CanReach, "ClassesOf": impl.ClassesOf, "ClosedClasses": impl.ClosedClasses, "IsConnected": impl.IsConnected,
+	"PeriodOf": impl.PeriodOf, "TreeWeights": impl.TreeWeights, "StationarySpread": impl.StationarySpread, "IsStationary": impl.IsStationary,
+	"LongSpread": impl.LongSpread, "IsReversible": impl.IsReversible, "FirstMisfit": impl.FirstMisfit, "ReversedChain": impl.ReversedChain,
+	"HitChances": impl.HitChances, "HitTimes": impl.HitTimes, "EndChances": impl.EndChances, "VisitsBefore": impl.VisitsBefore,
+	"EntryChances": impl.EntryChances, "ReturnTime": impl.ReturnTime, "PassageTimes": impl.PassageTimes, "KemenyTime": impl.KemenyTime,
+	"WatchedChain": impl.WatchedChain,
+}
+
 // pool has arguments of each type, valid and invalid ones.
 func pool(r *rand.Rand) map[reflect.Type][]any {
 	numbers := []any{}
@@ -51,8 +61,11 @@ func pool(r *rand.Rand) map[reflect.Type][]any {
 	lists := []any{[]int64(nil), []int64{}, []int64{-1}, []int64{61}, make([]int64, 200), make([]int64, 201)}
 	for range 60 {
 		c := randomChain(r)
-		if r.Intn(2) == 0 {
+		switch r.Intn(4) {
+		case 0, 1:
 			c = smallChain(r, 1+r.Int63n(3))
+		case 2:
+			c = sparseChain(r, 1+r.Int63n(6))
 		}
 		chains = append(chains, c)
 		texts = append(texts, textOf(c))
@@ -62,7 +75,8 @@ func pool(r *rand.Rand) map[reflect.Type][]any {
 		for _, s := range r.Perm(1 + r.Intn(6)) {
 			order = append(order, int64(s))
 		}
-		lists = append(lists, order)
+		sets := setsOf(c.States)
+		lists = append(lists, order, sets[r.Intn(len(sets))])
 	}
 	all := map[reflect.Type][]any{}
 	for _, list := range [][]any{numbers, fractions, spreads, chains, texts, lists} {
@@ -209,15 +223,17 @@ func call(t *testing.T, name string, f reflect.Value, args []reflect.Value) {
 func TestAllArguments(t *testing.T) {
 	r := rand.New(rand.NewSource(1))
 	all := pool(r)
-	for _, name := range slices.Sorted(maps.Keys(chapter1)) {
-		f := reflect.ValueOf(chapter1[name])
-		for range 2000 {
-			args := []reflect.Value{}
-			for i := range f.Type().NumIn() {
-				list := all[f.Type().In(i)]
-				args = append(args, reflect.ValueOf(list[r.Intn(len(list))]))
+	for _, chapter := range []map[string]any{chapter1, chapter2} {
+		for _, name := range slices.Sorted(maps.Keys(chapter)) {
+			f := reflect.ValueOf(chapter[name])
+			for range 2000 {
+				args := []reflect.Value{}
+				for i := range f.Type().NumIn() {
+					list := all[f.Type().In(i)]
+					args = append(args, reflect.ValueOf(list[r.Intn(len(list))]))
+				}
+				call(t, name, f, args)
 			}
-			call(t, name, f, args)
 		}
 	}
 }
@@ -243,6 +259,10 @@ func TestLongArguments(t *testing.T) {
 		same(t, "SkipChain", got, int64(impl.ErrInvalid))
 		_, got = impl.BesideChain(c, long)
 		same(t, "BesideChain", got, int64(impl.ErrInvalid))
+		_, got = impl.StationarySpread(long)
+		same(t, "StationarySpread", got, int64(impl.ErrInvalid))
+		_, got = impl.HitTimes(long, list)
+		same(t, "HitTimes", got, int64(impl.ErrInvalid))
 	}
 	same(t, "ValidSpread", impl.ValidSpread(spread), false)
 	_, got = impl.SpreadAfter(c, spread, 1)
@@ -255,6 +275,12 @@ func TestLongArguments(t *testing.T) {
 	same(t, "RenameStates", got, int64(impl.ErrRange))
 	_, got = impl.RunByDraws(c, 0, list)
 	same(t, "RunByDraws", got, int64(impl.ErrRange))
+	_, got = impl.LongSpread(c, spread)
+	same(t, "LongSpread", got, int64(impl.ErrInvalid))
+	_, got = impl.HitChances(c, list)
+	same(t, "HitChances", got, int64(impl.ErrRange))
+	_, got = impl.WatchedChain(c, list)
+	same(t, "WatchedChain", got, int64(impl.ErrRange))
 	_, got = impl.ReadChain(strings.Repeat("chain 1 1\n", million/10))
 	same(t, "ReadChain", got, int64(impl.ErrRange))
 }
