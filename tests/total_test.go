@@ -37,6 +37,15 @@ var chapter2 = map[string]any{
 	"WatchedChain": impl.WatchedChain,
 }
 
+// chapter3 has the functions of chapter 3.
+var chapter3 = map[string]any{
+	"DistanceOf": impl.DistanceOf, "OverlapOf": impl.OverlapOf, "SeparationOf": impl.SeparationOf, "BestEvent": impl.BestEvent,
+	"ValidJoint": impl.ValidJoint, "LeftOf": impl.LeftOf, "RightOf": impl.RightOf, "MeetChance": impl.MeetChance, "TurnJoint": impl.TurnJoint,
+	"ApartJoint": impl.ApartJoint, "BestJoint": impl.BestJoint, "StairJoint": impl.StairJoint, "GlueJoints": impl.GlueJoints,
+	"JointCost": impl.JointCost, "LeastCost": impl.LeastCost, "CheapestJoint": impl.CheapestJoint, "FindPrices": impl.FindPrices,
+	"PriceBound": impl.PriceBound,
+}
+
 // pool has arguments of each type, valid and invalid ones.
 func pool(r *rand.Rand) map[reflect.Type][]any {
 	numbers := []any{}
@@ -78,11 +87,29 @@ func pool(r *rand.Rand) map[reflect.Type][]any {
 		sets := setsOf(c.States)
 		lists = append(lists, order, sets[r.Intn(len(sets))])
 	}
+	joints, costs := couplingPool(r)
 	all := map[reflect.Type][]any{}
-	for _, list := range [][]any{numbers, fractions, spreads, chains, texts, lists} {
+	for _, list := range [][]any{numbers, fractions, spreads, chains, texts, lists, joints, costs} {
 		all[reflect.TypeOf(list[0])] = list
 	}
 	return all
+}
+
+// couplingPool has joint spreads and costs, valid and invalid ones.
+func couplingPool(r *rand.Rand) (joints, costs []any) {
+	joints = append(joints, longJoint(), jointOf("1"))
+	for _, j := range invalidJoints() {
+		if len(j) < 100 && (len(j) == 0 || len(j[0]) < 100) {
+			joints = append(joints, j)
+		}
+	}
+	costs = append(costs, flatCosts(2, 2, impl.MaxCost), flatCosts(3, 2, -1), [][]int64(nil), [][]int64{{}}, [][]int64{nil, {1}})
+	for range 60 {
+		lefts, rights := 1+r.Int63n(4), 1+r.Int63n(4)
+		joints = append(joints, randomJoint(r, lefts, rights))
+		costs = append(costs, randomCosts(r, lefts, rights, 1+r.Int63n(1003)))
+	}
+	return joints, costs
 }
 
 // copyOf copies a value with everything that it leads to. All slices get spare
@@ -223,7 +250,7 @@ func call(t *testing.T, name string, f reflect.Value, args []reflect.Value) {
 func TestAllArguments(t *testing.T) {
 	r := rand.New(rand.NewSource(1))
 	all := pool(r)
-	for _, chapter := range []map[string]any{chapter1, chapter2} {
+	for _, chapter := range []map[string]any{chapter1, chapter2, chapter3} {
 		for _, name := range slices.Sorted(maps.Keys(chapter)) {
 			f := reflect.ValueOf(chapter[name])
 			for range 2000 {
@@ -234,6 +261,36 @@ func TestAllArguments(t *testing.T) {
 				}
 				call(t, name, f, args)
 			}
+		}
+	}
+}
+
+// TestCouplingArguments has arguments that fit one another.
+func TestCouplingArguments(t *testing.T) {
+	r := rand.New(rand.NewSource(2))
+	for range 100 {
+		whole := 1 + r.Int63n(30)
+		left, right := randomSides(r, 1+r.Int63n(6), 1+r.Int63n(6), whole)
+		p, q, costs := partsOf(left), partsOf(right), randomCosts(r, int64(len(left)), int64(len(right)), 1+r.Int63n(9))
+		other := partsOf(randomParts(r, int64(len(left)), 7))
+		j, turned := jointOfParts(filledParts(r, left, right), whole), jointOfParts(filledParts(r, right, left), whole)
+		low, high := make([]int64, len(left)), make([]int64, len(right))
+		for _, one := range []struct {
+			name string
+			args []any
+		}{
+			{"DistanceOf", []any{p, other}}, {"OverlapOf", []any{p, other}}, {"SeparationOf", []any{p, other}}, {"BestEvent", []any{p, other}}, {"BestJoint", []any{p, other}},
+			{"ApartJoint", []any{p, q}}, {"StairJoint", []any{p, q}}, {"GlueJoints", []any{j, turned}}, {"GlueJoints", []any{turned, j}}, {"JointCost", []any{j, costs}},
+			{"LeastCost", []any{p, q, costs}}, {"CheapestJoint", []any{p, q, costs}}, {"FindPrices", []any{p, q, costs}}, {"PriceBound", []any{p, q, costs, low, high}},
+		} {
+			args := []reflect.Value{}
+			for _, arg := range one.args {
+				args = append(args, reflect.ValueOf(arg))
+			}
+			f := reflect.ValueOf(chapter3[one.name])
+			call(t, one.name, f, args)
+			results := f.Call(args)
+			same(t, one.name+": code", results[len(results)-1].Int(), int64(impl.OK))
 		}
 	}
 }
@@ -283,4 +340,14 @@ func TestLongArguments(t *testing.T) {
 	same(t, "WatchedChain", got, int64(impl.ErrRange))
 	_, got = impl.ReadChain(strings.Repeat("chain 1 1\n", million/10))
 	same(t, "ReadChain", got, int64(impl.ErrRange))
+	_, got = impl.DistanceOf(spread, spread)
+	same(t, "DistanceOf", got, int64(impl.ErrInvalid))
+	_, got = impl.GlueJoints([][]impl.Fraction{spread}, [][]impl.Fraction{spread})
+	same(t, "GlueJoints", got, int64(impl.ErrInvalid))
+	_, got = impl.JointCost(jointOf("1"), [][]int64{list})
+	same(t, "JointCost", got, int64(impl.ErrRange))
+	_, _, got = impl.FindPrices(fracs("1"), fracs("1"), make([][]int64, million))
+	same(t, "FindPrices", got, int64(impl.ErrRange))
+	_, got = impl.PriceBound(fracs("1"), fracs("1"), [][]int64{{0}}, list, list)
+	same(t, "PriceBound", got, int64(impl.ErrRange))
 }
