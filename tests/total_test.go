@@ -46,6 +46,15 @@ var chapter3 = map[string]any{
 	"PriceBound": impl.PriceBound,
 }
 
+// chapter4 has the functions of chapter 4.
+var chapter4 = map[string]any{
+	"ValidCoupled": impl.ValidCoupled, "SameCoupled": impl.SameCoupled, "ApartCoupled": impl.ApartCoupled, "StairCoupled": impl.StairCoupled,
+	"BestCoupled": impl.BestCoupled, "StickyCoupled": impl.StickyCoupled, "PairStep": impl.PairStep, "JointAfter": impl.JointAfter,
+	"NotMetAfter": impl.NotMetAfter, "SurelyMeets": impl.SurelyMeets, "ExpectedMeeting": impl.ExpectedMeeting, "RowDistance": impl.RowDistance,
+	"WorstDistance": impl.WorstDistance, "MixingTime": impl.MixingTime, "RoadLengths": impl.RoadLengths, "PairFactor": impl.PairFactor,
+	"RoadFactor": impl.RoadFactor, "WholeFactor": impl.WholeFactor, "RoadBound": impl.RoadBound,
+}
+
 // pool has arguments of each type, valid and invalid ones.
 func pool(r *rand.Rand) map[reflect.Type][]any {
 	numbers := []any{}
@@ -88,8 +97,9 @@ func pool(r *rand.Rand) map[reflect.Type][]any {
 		lists = append(lists, order, sets[r.Intn(len(sets))])
 	}
 	joints, costs := couplingPool(r)
+	coupled, roads := meetingPool(r)
 	all := map[reflect.Type][]any{}
-	for _, list := range [][]any{numbers, fractions, spreads, chains, texts, lists, joints, costs} {
+	for _, list := range [][]any{numbers, fractions, spreads, chains, texts, lists, joints, costs, coupled, roads} {
 		all[reflect.TypeOf(list[0])] = list
 	}
 	return all
@@ -110,6 +120,25 @@ func couplingPool(r *rand.Rand) (joints, costs []any) {
 		costs = append(costs, randomCosts(r, lefts, rights, 1+r.Int63n(1003)))
 	}
 	return joints, costs
+}
+
+// meetingPool has coupled chains and roads, valid and invalid ones.
+func meetingPool(r *rand.Rand) (coupled, roads []any) {
+	for _, m := range invalidCoupled() {
+		if len(m.Weights) < 100 && (len(m.Weights) == 0 || len(slices.Concat(m.Weights...)) < 100) {
+			coupled = append(coupled, m)
+		}
+	}
+	for _, list := range badRoads() {
+		if len(list) < 100 {
+			roads = append(roads, list)
+		}
+	}
+	for range 60 {
+		coupled = append(coupled, randomCoupled(r, smallChain(r, 1+r.Int63n(2))))
+		roads = append(roads, connectedRoads(r, 1+r.Int63n(6)), randomRoads(r, 1+r.Int63n(6), r.Int63n(21)))
+	}
+	return coupled, roads
 }
 
 // copyOf copies a value with everything that it leads to. All slices get spare
@@ -250,7 +279,7 @@ func call(t *testing.T, name string, f reflect.Value, args []reflect.Value) {
 func TestAllArguments(t *testing.T) {
 	r := rand.New(rand.NewSource(1))
 	all := pool(r)
-	for _, chapter := range []map[string]any{chapter1, chapter2, chapter3} {
+	for _, chapter := range []map[string]any{chapter1, chapter2, chapter3, chapter4} {
 		for _, name := range slices.Sorted(maps.Keys(chapter)) {
 			f := reflect.ValueOf(chapter[name])
 			for range 2000 {
@@ -265,7 +294,32 @@ func TestAllArguments(t *testing.T) {
 	}
 }
 
-// TestCouplingArguments has arguments that fit one another.
+// fitting is a function with arguments that fit one another.
+type fitting struct {
+	name string
+	args []any
+}
+
+// callFitting calls functions of a chapter, all of which have to return OK or no
+// code.
+func callFitting(t *testing.T, chapter map[string]any, list []fitting) {
+	t.Helper()
+	for _, one := range list {
+		args := []reflect.Value{}
+		for _, arg := range one.args {
+			args = append(args, reflect.ValueOf(arg))
+		}
+		f := reflect.ValueOf(chapter[one.name])
+		call(t, one.name, f, args)
+		results := f.Call(args)
+		if last := results[len(results)-1]; last.Kind() == reflect.Int64 {
+			same(t, one.name+": code", last.Int(), int64(impl.OK))
+		} else {
+			same(t, one.name, last.Bool(), true)
+		}
+	}
+}
+
 func TestCouplingArguments(t *testing.T) {
 	r := rand.New(rand.NewSource(2))
 	for range 100 {
@@ -275,23 +329,35 @@ func TestCouplingArguments(t *testing.T) {
 		other := partsOf(randomParts(r, int64(len(left)), 7))
 		j, turned := jointOfParts(filledParts(r, left, right), whole), jointOfParts(filledParts(r, right, left), whole)
 		low, high := make([]int64, len(left)), make([]int64, len(right))
-		for _, one := range []struct {
-			name string
-			args []any
-		}{
+		callFitting(t, chapter3, []fitting{
 			{"DistanceOf", []any{p, other}}, {"OverlapOf", []any{p, other}}, {"SeparationOf", []any{p, other}}, {"BestEvent", []any{p, other}}, {"BestJoint", []any{p, other}},
 			{"ApartJoint", []any{p, q}}, {"StairJoint", []any{p, q}}, {"GlueJoints", []any{j, turned}}, {"GlueJoints", []any{turned, j}}, {"JointCost", []any{j, costs}},
 			{"LeastCost", []any{p, q, costs}}, {"CheapestJoint", []any{p, q, costs}}, {"FindPrices", []any{p, q, costs}}, {"PriceBound", []any{p, q, costs, low, high}},
-		} {
-			args := []reflect.Value{}
-			for _, arg := range one.args {
-				args = append(args, reflect.ValueOf(arg))
-			}
-			f := reflect.ValueOf(chapter3[one.name])
-			call(t, one.name, f, args)
-			results := f.Call(args)
-			same(t, one.name+": code", results[len(results)-1].Int(), int64(impl.OK))
+		})
+	}
+}
+
+func TestMeetingArguments(t *testing.T) {
+	r := rand.New(rand.NewSource(3))
+	for range 60 {
+		c := randomChainOf(r, 1+r.Int63n(impl.MaxMet), 1+r.Int63n(20))
+		s, u, steps := r.Int63n(c.States), r.Int63n(c.States), r.Int63n(impl.MaxSteps+1)
+		for _, one := range couplingsOf(t, r, c) {
+			m, sticky := one.m, []any{c, one.m}
+			callFitting(t, chapter4, []fitting{
+				{"ValidCoupled", sticky}, {"SameCoupled", []any{m, m}}, {"StickyCoupled", sticky}, {"PairStep", []any{c, m, s, u, r.Int63n(m.Total)}},
+				{"JointAfter", []any{c, m, s, u, steps}}, {"NotMetAfter", []any{c, m, s, u, steps}}, {"ExpectedMeeting", []any{c, m, s, s}},
+			})
+			call(t, "SurelyMeets", reflect.ValueOf(impl.SurelyMeets), []reflect.Value{reflect.ValueOf(c), reflect.ValueOf(m), reflect.ValueOf(s), reflect.ValueOf(u)})
+			call(t, "ExpectedMeeting", reflect.ValueOf(impl.ExpectedMeeting), []reflect.Value{reflect.ValueOf(c), reflect.ValueOf(m), reflect.ValueOf(s), reflect.ValueOf(u)})
 		}
+		d := randomChainOf(r, 2+r.Int63n(impl.MaxStates-1), 1+r.Int63n(impl.MaxTotal))
+		roads, lengths, last := connectedRoads(r, d.States), randomLengths(r, d.States), d.States-1
+		callFitting(t, chapter4, []fitting{
+			{"ApartCoupled", []any{c}}, {"StairCoupled", []any{c}}, {"BestCoupled", []any{c}}, {"RowDistance", []any{d, int64(0), last, steps}}, {"WorstDistance", []any{d, steps}},
+			{"MixingTime", []any{d, frac("1")}}, {"RoadLengths", []any{d.States, roads}}, {"PairFactor", []any{d, lengths, last, int64(0)}}, {"RoadFactor", []any{d, roads}},
+			{"WholeFactor", []any{d, roads}}, {"RoadBound", []any{d, roads, steps}},
+		})
 	}
 }
 
@@ -350,4 +416,20 @@ func TestLongArguments(t *testing.T) {
 	same(t, "FindPrices", got, int64(impl.ErrRange))
 	_, got = impl.PriceBound(fracs("1"), fracs("1"), [][]int64{{0}}, list, list)
 	same(t, "PriceBound", got, int64(impl.ErrRange))
+	for _, long := range []impl.Chain{wide, high} {
+		m := impl.Coupled(long)
+		same(t, "ValidCoupled", impl.ValidCoupled(c, m), false)
+		same(t, "ValidCoupled", impl.ValidCoupled(long, m), false)
+		same(t, "SameCoupled", impl.SameCoupled(m, m), true)
+		_, got = impl.BestCoupled(long)
+		same(t, "BestCoupled", got, int64(impl.ErrInvalid))
+		_, got = impl.ExpectedMeeting(c, m, 0, 1)
+		same(t, "ExpectedMeeting", got, int64(impl.ErrInvalid))
+	}
+	_, got = impl.RoadBound(c, make([]impl.Road, million), 1)
+	same(t, "RoadBound", got, int64(impl.ErrRange))
+	_, got = impl.PairFactor(c, [][]int64{list, list}, 0, 1)
+	same(t, "PairFactor", got, int64(impl.ErrRange))
+	_, got = impl.MixingTime(c, number)
+	same(t, "MixingTime", got, int64(impl.ErrInvalid))
 }
