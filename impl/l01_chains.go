@@ -701,8 +701,11 @@ func (s *scanner) numbers(count, least, greatest int64) []int64 {
 	return list
 }
 
+// hasMore reports whether there is more to be read.
+func (s *scanner) hasMore() bool { return s.err == nil && s.at < len(s.text) }
+
 func (s *scanner) end() {
-	if s.at < len(s.text) {
+	if s.hasMore() {
 		s.fail()
 	}
 }

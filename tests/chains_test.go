@@ -122,19 +122,7 @@ func TestReadChainChanged(t *testing.T) {
 	const alphabet = "0123456789 \n-+chainfrom"
 	read := 0
 	for range 20000 {
-		text := textOf(randomChainOf(r, 1+r.Int63n(3), 1+r.Int63n(12)))
-		at := r.Intn(len(text))
-		other := alphabet[r.Intn(len(alphabet))]
-		switch r.Intn(4) {
-		case 0:
-			text = text[:at] + text[at+1:]
-		case 1:
-			text = text[:at] + string(other) + text[at:]
-		case 2:
-			text = text[:at] + string(other) + text[at+1:]
-		case 3:
-			text = text[:at]
-		}
+		text := changedText(r, textOf(randomChainOf(r, 1+r.Int63n(3), 1+r.Int63n(12))), alphabet)
 		c, got := impl.ReadChain(text)
 		if got == impl.OK {
 			same(t, "text", impl.ChainText(c), text)

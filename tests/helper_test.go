@@ -193,6 +193,22 @@ func invalidChains() map[string]impl.Chain {
 	}
 }
 
+// changedText removes, adds or changes a byte of a text, or cuts it off there.
+func changedText(r *rand.Rand, text, alphabet string) string {
+	at := r.Intn(len(text))
+	other := string(alphabet[r.Intn(len(alphabet))])
+	switch r.Intn(4) {
+	case 0:
+		return text[:at] + text[at+1:]
+	case 1:
+		return text[:at] + other + text[at:]
+	case 2:
+		return text[:at] + other + text[at+1:]
+	default:
+		return text[:at]
+	}
+}
+
 func nines(count int) string { return strings.Repeat("9", count) }
 
 // tenTo returns 10 to a power, which has one digit more.

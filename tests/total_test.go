@@ -55,6 +55,16 @@ var chapter4 = map[string]any{
 	"RoadFactor": impl.RoadFactor, "WholeFactor": impl.WholeFactor, "RoadBound": impl.RoadBound,
 }
 
+// chapter5 has the functions of chapter 5.
+var chapter5 = map[string]any{
+	"ValidMaps": impl.ValidMaps, "SameMaps": impl.SameMaps, "MapsText": impl.MapsText, "ReadMaps": impl.ReadMaps, "ChainOfMaps": impl.ChainOfMaps,
+	"AreMapsOf": impl.AreMapsOf, "MapsByDraws": impl.MapsByDraws, "TidyMaps": impl.TidyMaps, "ThenMaps": impl.ThenMaps, "ApplyPicks": impl.ApplyPicks,
+	"CanCoalesce": impl.CanCoalesce, "CoalescedAfter": impl.CoalescedAfter, "ExpectedCoalescence": impl.ExpectedCoalescence,
+	"PastChances": impl.PastChances, "ForwardChances": impl.ForwardChances, "PastRun": impl.PastRun, "WindowRun": impl.WindowRun,
+	"ForwardRun": impl.ForwardRun, "ValidOrder": impl.ValidOrder, "LineOrder": impl.LineOrder, "EndsOf": impl.EndsOf, "IsMonotone": impl.IsMonotone,
+	"SandwichRun": impl.SandwichRun, "SpreadBelow": impl.SpreadBelow,
+}
+
 // pool has arguments of each type, valid and invalid ones.
 func pool(r *rand.Rand) map[reflect.Type][]any {
 	numbers := []any{}
@@ -98,8 +108,12 @@ func pool(r *rand.Rand) map[reflect.Type][]any {
 	}
 	joints, costs := couplingPool(r)
 	coupled, roads := meetingPool(r)
+	randoms, orders := pastPool(r)
+	for _, m := range randoms {
+		texts = append(texts, mapsTextOf(m.(impl.Maps)))
+	}
 	all := map[reflect.Type][]any{}
-	for _, list := range [][]any{numbers, fractions, spreads, chains, texts, lists, joints, costs, coupled, roads} {
+	for _, list := range [][]any{numbers, fractions, spreads, chains, texts, lists, joints, costs, coupled, roads, randoms, orders} {
 		all[reflect.TypeOf(list[0])] = list
 	}
 	return all
@@ -139,6 +153,27 @@ func meetingPool(r *rand.Rand) (coupled, roads []any) {
 		roads = append(roads, connectedRoads(r, 1+r.Int63n(6)), randomRoads(r, 1+r.Int63n(6), r.Int63n(21)))
 	}
 	return coupled, roads
+}
+
+// pastPool has maps and orders, valid and invalid ones.
+func pastPool(r *rand.Rand) (randoms, orders []any) {
+	for _, m := range invalidMaps() {
+		randoms = append(randoms, m)
+	}
+	for _, below := range badOrders() {
+		if len(below) < 100 && (len(below) == 0 || len(below[0]) < 100) {
+			orders = append(orders, below)
+		}
+	}
+	for _, m := range mapsOfAllKinds(r, 80) {
+		randoms = append(randoms, m)
+		below := randomOrder(r, m.States, r.Intn(101))
+		orders = append(orders, below)
+		if len(m.List) < 10 {
+			randoms = append(randoms, monotoneMaps(r, below))
+		}
+	}
+	return randoms, orders
 }
 
 // copyOf copies a value with everything that it leads to. All slices get spare
@@ -218,6 +253,8 @@ func scribble(values []reflect.Value) {
 			for i := range list.Len() {
 				if list.Index(i).Kind() == reflect.Int64 {
 					list.Index(i).SetInt(-77)
+				} else if list.Index(i).Kind() == reflect.Bool {
+					list.Index(i).SetBool(!list.Index(i).Bool())
 				} else if list.Index(i).Type() == reflect.TypeFor[impl.Fraction]() {
 					list.Index(i).Set(reflect.ValueOf(impl.Fraction{Num: "scribbled", Den: "over"}))
 				}
@@ -279,7 +316,7 @@ func call(t *testing.T, name string, f reflect.Value, args []reflect.Value) {
 func TestAllArguments(t *testing.T) {
 	r := rand.New(rand.NewSource(1))
 	all := pool(r)
-	for _, chapter := range []map[string]any{chapter1, chapter2, chapter3, chapter4} {
+	for _, chapter := range []map[string]any{chapter1, chapter2, chapter3, chapter4, chapter5} {
 		for _, name := range slices.Sorted(maps.Keys(chapter)) {
 			f := reflect.ValueOf(chapter[name])
 			for range 2000 {
@@ -361,6 +398,31 @@ func TestMeetingArguments(t *testing.T) {
 	}
 }
 
+func TestPastArguments(t *testing.T) {
+	r := rand.New(rand.NewSource(4))
+	for _, m := range mapsOfAllKinds(r, 100) {
+		c, _ := impl.ChainOfMaps(m)
+		n, steps := weighted(r, m.States, 1, [][]int64{randomTo(r, m.States)}), r.Int63n(impl.MaxSteps+1)
+		below := randomEnded(r, m.States)
+		kept, p, q := monotoneMaps(r, below), randomSpread(r, m.States, 30), randomSpread(r, m.States, 20)
+		sure := weighted(r, m.States, 1, [][]int64{make([]int64, m.States)})
+		picks, zeros := randomPicks(r, m, r.Intn(impl.MaxPicks+1)), make([]int64, 1+r.Intn(impl.MaxPicks))
+		callFitting(t, chapter5, []fitting{
+			{"ValidMaps", []any{m}}, {"SameMaps", []any{m, m}}, {"ReadMaps", []any{mapsTextOf(m)}}, {"ChainOfMaps", []any{m}}, {"AreMapsOf", []any{c, m}}, {"MapsByDraws", []any{c}},
+			{"TidyMaps", []any{m}}, {"ThenMaps", []any{m, n}}, {"ThenMaps", []any{n, m}}, {"ApplyPicks", []any{m, picks}}, {"CanCoalesce", []any{m}}, {"CoalescedAfter", []any{m, steps}},
+			{"PastChances", []any{m, steps}}, {"ForwardChances", []any{m, steps}}, {"PastRun", []any{sure, zeros}}, {"WindowRun", []any{sure, zeros}}, {"ForwardRun", []any{sure, zeros}},
+			{"ValidOrder", []any{m.States, below}}, {"LineOrder", []any{m.States}}, {"EndsOf", []any{below}}, {"IsMonotone", []any{kept, below}}, {"SandwichRun", []any{sure, below, zeros}},
+			{"SpreadBelow", []any{p, q, below}},
+		})
+		for _, run := range []string{"PastRun", "WindowRun", "ForwardRun"} {
+			call(t, run, reflect.ValueOf(chapter5[run]), []reflect.Value{reflect.ValueOf(m), reflect.ValueOf(picks)})
+		}
+		call(t, "SandwichRun", reflect.ValueOf(impl.SandwichRun), []reflect.Value{reflect.ValueOf(kept), reflect.ValueOf(below), reflect.ValueOf(randomPicks(r, kept, 20))})
+		call(t, "ExpectedCoalescence", reflect.ValueOf(impl.ExpectedCoalescence), []reflect.Value{reflect.ValueOf(m)})
+		call(t, "MapsText", reflect.ValueOf(impl.MapsText), []reflect.Value{reflect.ValueOf(m)})
+	}
+}
+
 // TestLongArguments has arguments of a million elements.
 func TestLongArguments(t *testing.T) {
 	const million = 1000000
@@ -432,4 +494,37 @@ func TestLongArguments(t *testing.T) {
 	same(t, "PairFactor", got, int64(impl.ErrRange))
 	_, got = impl.MixingTime(c, number)
 	same(t, "MixingTime", got, int64(impl.ErrInvalid))
+	longMaps(t, list)
+}
+
+// longMaps has maps, picks and orders of a million elements.
+func longMaps(t *testing.T, list []int64) {
+	t.Helper()
+	m := readMaps(t, exampleMaps)
+	wide := impl.Maps{States: 2, Total: 1, List: []impl.Map{{Weight: 1, To: list}}}
+	high := impl.Maps{States: 2, Total: 60, List: slices.Repeat([]impl.Map{m.List[0]}, len(list)/3)}
+	below := make([][]bool, len(list))
+	for _, long := range []impl.Maps{wide, high} {
+		same(t, "ValidMaps", impl.ValidMaps(long), false)
+		same(t, "SameMaps", impl.SameMaps(long, long), true)
+		same(t, "SameMaps", impl.SameMaps(long, m), false)
+		same(t, "MapsText", impl.MapsText(long), "")
+		_, got := impl.TidyMaps(long)
+		same(t, "TidyMaps", got, int64(impl.ErrInvalid))
+		_, got = impl.ThenMaps(m, long)
+		same(t, "ThenMaps", got, int64(impl.ErrInvalid))
+		_, got = impl.PastChances(long, 1)
+		same(t, "PastChances", got, int64(impl.ErrInvalid))
+		_, got = impl.IsMonotone(long, below)
+		same(t, "IsMonotone", got, int64(impl.ErrInvalid))
+		_, _, got = impl.PastRun(long, list)
+		same(t, "PastRun", got, int64(impl.ErrInvalid))
+	}
+	_, got := impl.ApplyPicks(m, list)
+	same(t, "ApplyPicks", got, int64(impl.ErrRange))
+	_, _, got = impl.SandwichRun(m, below, list)
+	same(t, "SandwichRun", got, int64(impl.ErrInvalid))
+	same(t, "ValidOrder", impl.ValidOrder(int64(len(below)), below), false)
+	_, _, got = impl.EndsOf([][]bool{make([]bool, len(list))})
+	same(t, "EndsOf", got, int64(impl.ErrInvalid))
 }
