@@ -169,6 +169,14 @@ func (x long) minus(y long) long {
 	return rest.trim()
 }
 
+// gap returns by how much the greater one of x and y is greater.
+func (x long) gap(y long) long {
+	if x.compare(y) < 0 {
+		x, y = y, x
+	}
+	return x.minus(y)
+}
+
 func (x long) times(y long) long {
 	product := make(long, len(x)+len(y))
 	for i, word := range x {
@@ -352,11 +360,7 @@ type remainder struct {
 }
 
 func (r remainder) gap(x, y long) long {
-	a, b := x.times(longOf(r.ofX)), y.times(longOf(r.ofY))
-	if a.compare(b) < 0 {
-		a, b = b, a
-	}
-	return a.minus(b)
+	return x.times(longOf(r.ofX)).gap(y.times(longOf(r.ofY)))
 }
 
 // guessRemainders returns two consecutive remainders of long numbers, of which

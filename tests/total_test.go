@@ -65,6 +65,14 @@ var chapter5 = map[string]any{
 	"SandwichRun": impl.SandwichRun, "SpreadBelow": impl.SpreadBelow,
 }
 
+// chapter6 has the functions of chapter 6.
+var chapter6 = map[string]any{
+	"FlowBetween": impl.FlowBetween, "CutRatio": impl.CutRatio, "Conductance": impl.Conductance, "MeanOf": impl.MeanOf, "VarianceOf": impl.VarianceOf,
+	"FormOf": impl.FormOf, "GapQuotient": impl.GapQuotient, "GapRange": impl.GapRange, "IsPath": impl.IsPath, "FirstPath": impl.FirstPath,
+	"PathsOf": impl.PathsOf, "ArePaths": impl.ArePaths, "CongestionOf": impl.CongestionOf, "StepPaths": impl.StepPaths,
+	"ComparisonOf": impl.ComparisonOf, "EscapeChance": impl.EscapeChance, "CommuteTime": impl.CommuteTime,
+}
+
 // pool has arguments of each type, valid and invalid ones.
 func pool(r *rand.Rand) map[reflect.Type][]any {
 	numbers := []any{}
@@ -107,6 +115,8 @@ func pool(r *rand.Rand) map[reflect.Type][]any {
 		lists = append(lists, order, sets[r.Intn(len(sets))])
 	}
 	joints, costs := couplingPool(r)
+	values, paths := cutPool(r, chains)
+	spreads, costs = append(spreads, values...), append(costs, paths...)
 	coupled, roads := meetingPool(r)
 	randoms, orders := pastPool(r)
 	for _, m := range randoms {
@@ -174,6 +184,23 @@ func pastPool(r *rand.Rand) (randoms, orders []any) {
 		}
 	}
 	return randoms, orders
+}
+
+// cutPool has values for chains, and paths of those that are connected.
+func cutPool(r *rand.Rand, chains []any) (values, paths []any) {
+	for _, list := range slices.Concat(badValues(), otherCounts()) {
+		if len(list) < 100 {
+			values = append(values, list)
+		}
+	}
+	for _, one := range chains {
+		c := one.(impl.Chain)
+		if impl.ValidChain(c) && isConnected(c) {
+			values = append(values, randomValues(r, c.States))
+			paths = append(paths, randomPaths(r, c, apartIn(c.States)), randomPaths(r, c, stepsIn(c)))
+		}
+	}
+	return values, paths
 }
 
 // copyOf copies a value with everything that it leads to. All slices get spare
@@ -316,7 +343,7 @@ func call(t *testing.T, name string, f reflect.Value, args []reflect.Value) {
 func TestAllArguments(t *testing.T) {
 	r := rand.New(rand.NewSource(1))
 	all := pool(r)
-	for _, chapter := range []map[string]any{chapter1, chapter2, chapter3, chapter4, chapter5} {
+	for _, chapter := range []map[string]any{chapter1, chapter2, chapter3, chapter4, chapter5, chapter6} {
 		for _, name := range slices.Sorted(maps.Keys(chapter)) {
 			f := reflect.ValueOf(chapter[name])
 			for range 2000 {
@@ -423,6 +450,35 @@ func TestPastArguments(t *testing.T) {
 	}
 }
 
+func TestCutArguments(t *testing.T) {
+	r := rand.New(rand.NewSource(5))
+	for _, both := range twoChains(r, 150) {
+		c, d := both[0], both[1]
+		values, sets := slices.Repeat(fracs("0"), int(c.States)), everySet(c.States)
+		values[0] = frac("3/7")
+		a, b, set := sets[r.Intn(len(sets))], sets[r.Intn(len(sets))], sets[1+r.Intn(len(sets)-1)]
+		all, some := randomPaths(r, c, apartIn(c.States)), randomPaths(r, c, stepsIn(d))
+		s, u := r.Int63n(c.States), r.Int63n(c.States)
+		callFitting(t, chapter6, []fitting{
+			{"FlowBetween", []any{c, a, b}}, {"CutRatio", []any{c, set}}, {"MeanOf", []any{c, values}}, {"VarianceOf", []any{c, values}}, {"FormOf", []any{c, values}},
+			{"IsPath", []any{c, []int64{s, u}[:1]}}, {"FirstPath", []any{c, s, u}}, {"PathsOf", []any{c}}, {"ArePaths", []any{c, all}}, {"StepPaths", []any{c, d}},
+			{"ComparisonOf", []any{c, d, some}},
+		})
+		if c.States > 1 {
+			callFitting(t, chapter6, []fitting{
+				{"Conductance", []any{c}}, {"GapQuotient", []any{c, values}}, {"CongestionOf", []any{c, all}}, {"EscapeChance", []any{c, s, (s + 1) % c.States}},
+				{"CommuteTime", []any{c, s, (s + 1) % c.States}}, {"GapRange", []any{reversiblePair(r)}},
+			})
+		}
+	}
+}
+
+// reversiblePair returns a connected chain with two states, which is reversible.
+func reversiblePair(r *rand.Rand) impl.Chain {
+	up, down := 1+r.Int63n(9), 1+r.Int63n(9)
+	return impl.Chain{States: 2, Total: 9, Weights: [][]int64{{9 - up, up}, {down, 9 - down}}}
+}
+
 // TestLongArguments has arguments of a million elements.
 func TestLongArguments(t *testing.T) {
 	const million = 1000000
@@ -495,6 +551,44 @@ func TestLongArguments(t *testing.T) {
 	_, got = impl.MixingTime(c, number)
 	same(t, "MixingTime", got, int64(impl.ErrInvalid))
 	longMaps(t, list)
+	longCuts(t, []impl.Chain{wide, high}, list)
+}
+
+// longCuts has chains, sets, values and paths of a million elements.
+func longCuts(t *testing.T, chains []impl.Chain, list []int64) {
+	t.Helper()
+	c, ones := readChain(t, exampleCuts), slices.Repeat(fracs("1"), len(list))
+	rising := stayingTo(int64(len(list)))
+	for _, long := range chains {
+		_, got := impl.FlowBetween(long, list, list)
+		same(t, "FlowBetween", got, int64(impl.ErrInvalid))
+		_, _, got = impl.Conductance(long)
+		same(t, "Conductance", got, int64(impl.ErrInvalid))
+		_, got = impl.FormOf(long, ones)
+		same(t, "FormOf", got, int64(impl.ErrInvalid))
+		_, got = impl.StepPaths(c, long)
+		same(t, "StepPaths", got, int64(impl.ErrInvalid))
+		_, got = impl.CommuteTime(long, 0, 1)
+		same(t, "CommuteTime", got, int64(impl.ErrInvalid))
+	}
+	for _, set := range [][]int64{list, rising} {
+		_, got := impl.FlowBetween(c, nil, set)
+		same(t, "FlowBetween", got, int64(impl.ErrRange))
+		_, got = impl.CutRatio(c, set)
+		same(t, "CutRatio", got, int64(impl.ErrRange))
+		_, got = impl.IsPath(c, set)
+		same(t, "IsPath", got, int64(impl.ErrRange))
+	}
+	_, got := impl.GapQuotient(c, ones)
+	same(t, "GapQuotient", got, int64(impl.ErrRange))
+	for _, paths := range [][][]int64{{list}, {rising}, make([][]int64, len(list)), slices.Repeat([][]int64{rising[:6]}, 6)} {
+		are, got := impl.ArePaths(c, paths)
+		same(t, "ArePaths", are || got != impl.OK, false)
+		_, _, got = impl.CongestionOf(c, paths)
+		same(t, "CongestionOf", got, int64(impl.ErrProof))
+		_, got = impl.ComparisonOf(c, c, paths)
+		same(t, "ComparisonOf", got, int64(impl.ErrProof))
+	}
 }
 
 // longMaps has maps, picks and orders of a million elements.
