@@ -482,6 +482,19 @@ func writeFractions(values []ratio) ([]Fraction, int64) {
 	return list, OK
 }
 
+// writeTable does the same for lists of values.
+func writeTable(table [][]ratio) ([][]Fraction, int64) {
+	lists := make([][]Fraction, 0, len(table))
+	for _, values := range table {
+		list, code := writeFractions(values)
+		if code != OK {
+			return nil, code
+		}
+		lists = append(lists, list)
+	}
+	return lists, OK
+}
+
 // ValidFraction reports whether x is valid.
 func ValidFraction(x Fraction) bool {
 	_, ok := readFraction(x)

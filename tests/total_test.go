@@ -73,6 +73,14 @@ var chapter6 = map[string]any{
 	"ComparisonOf": impl.ComparisonOf, "EscapeChance": impl.EscapeChance, "CommuteTime": impl.CommuteTime,
 }
 
+// chapter7 has the functions of chapter 7.
+var chapter7 = map[string]any{
+	"ValidStops": impl.ValidStops, "StoppedAt": impl.StoppedAt, "LeftOver": impl.LeftOver, "StopSpread": impl.StopSpread, "StopTime": impl.StopTime,
+	"IsStrong": impl.IsStrong, "FirstWeak": impl.FirstWeak, "StrongStops": impl.StrongStops, "FillingStops": impl.FillingStops, "AccessTime": impl.AccessTime,
+	"DeckAt": impl.DeckAt, "DeckNumber": impl.DeckNumber, "ShuffleChain": impl.ShuffleChain, "RisingRuns": impl.RisingRuns, "RiffleChance": impl.RiffleChance,
+	"CollectorChance": impl.CollectorChance, "CollectorTime": impl.CollectorTime,
+}
+
 // pool has arguments of each type, valid and invalid ones.
 func pool(r *rand.Rand) map[reflect.Type][]any {
 	numbers := []any{}
@@ -114,7 +122,13 @@ func pool(r *rand.Rand) map[reflect.Type][]any {
 		sets := setsOf(c.States)
 		lists = append(lists, order, sets[r.Intn(len(sets))])
 	}
+	for _, deck := range badDecks() {
+		if len(deck) < 100 {
+			lists = append(lists, deck)
+		}
+	}
 	joints, costs := couplingPool(r)
+	joints = append(joints, stopPool(r)...)
 	values, paths := cutPool(r, chains)
 	spreads, costs = append(spreads, values...), append(costs, paths...)
 	coupled, roads := meetingPool(r)
@@ -201,6 +215,20 @@ func cutPool(r *rand.Rand, chains []any) (values, paths []any) {
 		}
 	}
 	return values, paths
+}
+
+// stopPool has stops, valid and invalid ones.
+func stopPool(r *rand.Rand) (stops []any) {
+	for _, list := range invalidStops() {
+		if len(list) < 100 && (len(list) == 0 || len(list[0]) < 100) {
+			stops = append(stops, list)
+		}
+	}
+	for range 60 {
+		states := 1 + r.Int63n(impl.MaxStates)
+		stops = append(stops, randomStops(r, states, r.Int63n(impl.MaxTimes+1)), surelyStopped(r, states), shortStops(r, states, r.Int63n(4)))
+	}
+	return stops
 }
 
 // copyOf copies a value with everything that it leads to. All slices get spare
@@ -343,7 +371,7 @@ func call(t *testing.T, name string, f reflect.Value, args []reflect.Value) {
 func TestAllArguments(t *testing.T) {
 	r := rand.New(rand.NewSource(1))
 	all := pool(r)
-	for _, chapter := range []map[string]any{chapter1, chapter2, chapter3, chapter4, chapter5, chapter6} {
+	for _, chapter := range []map[string]any{chapter1, chapter2, chapter3, chapter4, chapter5, chapter6, chapter7} {
 		for _, name := range slices.Sorted(maps.Keys(chapter)) {
 			f := reflect.ValueOf(chapter[name])
 			for range 2000 {
@@ -473,6 +501,45 @@ func TestCutArguments(t *testing.T) {
 	}
 }
 
+func TestStopArguments(t *testing.T) {
+	r := rand.New(rand.NewSource(6))
+	for _, c := range connectedAndRings(r, 150) {
+		p, q, times := startOf(r, c.States), startOf(r, c.States), r.Int63n(impl.MaxTimes+1)
+		stops := shortStops(r, c.States, times)
+		whole := append(shortStops(r, c.States, r.Int63n(impl.MaxTimes)), flatStops(c.States, 1, "1")...)
+		few, cards := r.Int63n(4), 1+r.Int63n(impl.MaxCards)
+		decks := knownDecks()[cards-1]
+		deck, kinds := decks[r.Intn(len(decks))], 1+r.Int63n(impl.MaxKinds)
+		callFitting(t, chapter7, []fitting{
+			{"ValidStops", []any{c, stops}}, {"StoppedAt", []any{c, p, stops}}, {"LeftOver", []any{c, p, stops}}, {"StopSpread", []any{c, p, whole}}, {"StopTime", []any{c, p, whole}},
+			{"IsStrong", []any{c, p, stops}}, {"StrongStops", []any{c, p, few}}, {"FillingStops", []any{c, p, q, few}}, {"AccessTime", []any{c, p, q}},
+			{"DeckAt", []any{cards, r.Int63n(int64(len(decks)))}}, {"DeckNumber", []any{deck}}, {"ShuffleChain", []any{cards, 1 + r.Int63n(5)}}, {"RisingRuns", []any{deck}},
+			{"RiffleChance", []any{deck, r.Int63n(impl.MaxSteps + 1)}}, {"CollectorChance", []any{kinds, r.Int63n(impl.MaxSteps + 1)}}, {"CollectorTime", []any{kinds}},
+		})
+		call(t, "FirstWeak", reflect.ValueOf(impl.FirstWeak), []reflect.Value{reflect.ValueOf(c), reflect.ValueOf(p), reflect.ValueOf(stops)})
+	}
+}
+
+// TestLongestStops has as many states and times as there can be, and as long
+// numerals: the numbers on the way are far longer than those of a result.
+func TestLongestStops(t *testing.T) {
+	r := rand.New(rand.NewSource(7))
+	for range 6 {
+		c := randomChainOf(r, impl.MaxStates, 59+r.Int63n(2))
+		p, stops := longStart(r, c.States, 300), [][]impl.Fraction{}
+		for range impl.MaxTimes {
+			row := []impl.Fraction{}
+			for range c.States {
+				row = append(row, randomStop(r, impl.MaxStopDigits))
+			}
+			stops = append(stops, row)
+		}
+		for _, name := range []string{"StoppedAt", "LeftOver", "StopSpread", "StopTime", "IsStrong", "FirstWeak"} {
+			call(t, name, reflect.ValueOf(chapter7[name]), []reflect.Value{reflect.ValueOf(c), reflect.ValueOf(p), reflect.ValueOf(stops)})
+		}
+	}
+}
+
 // reversiblePair returns a connected chain with two states, which is reversible.
 func reversiblePair(r *rand.Rand) impl.Chain {
 	up, down := 1+r.Int63n(9), 1+r.Int63n(9)
@@ -552,6 +619,35 @@ func TestLongArguments(t *testing.T) {
 	same(t, "MixingTime", got, int64(impl.ErrInvalid))
 	longMaps(t, list)
 	longCuts(t, []impl.Chain{wide, high}, list)
+	longStops(t, []impl.Chain{wide, high}, list)
+}
+
+// longStops has chains, spreads, stops and decks of a million elements.
+func longStops(t *testing.T, chains []impl.Chain, list []int64) {
+	t.Helper()
+	c, p, ones := readChain(t, exampleStops), fracs("1", "0"), slices.Repeat(fracs("1"), len(list))
+	for _, long := range chains {
+		stopCodes(t, "a long chain", impl.ErrInvalid, long, p, nil)
+		stops, got := impl.StrongStops(long, p, 1)
+		code(t, "StrongStops", impl.ErrInvalid, stops, got)
+		stops, got = impl.FillingStops(long, p, p, 1)
+		code(t, "FillingStops", impl.ErrInvalid, stops, got)
+	}
+	for _, stops := range [][][]impl.Fraction{make([][]impl.Fraction, len(list)), {ones}, slices.Repeat([][]impl.Fraction{p}, len(list)/3)} {
+		same(t, "ValidStops", impl.ValidStops(c, stops), false)
+		stopCodes(t, "long stops", impl.ErrInvalid, c, p, stops)
+	}
+	stopCodes(t, "a long spread", impl.ErrInvalid, c, ones, nil)
+	time, got := impl.AccessTime(c, ones, ones)
+	code(t, "AccessTime", impl.ErrInvalid, time, got)
+	for _, deck := range [][]int64{list, stayingTo(int64(len(list)))} {
+		number, got := impl.DeckNumber(deck)
+		code(t, "DeckNumber", impl.ErrRange, number, got)
+		runs, got := impl.RisingRuns(deck)
+		code(t, "RisingRuns", impl.ErrRange, runs, got)
+		x, got := impl.RiffleChance(deck, 1)
+		code(t, "RiffleChance", impl.ErrRange, x, got)
+	}
 }
 
 // longCuts has chains, sets, values and paths of a million elements.
