@@ -850,7 +850,9 @@ func (p sharing) step(c Chain) sharing {
 	nums := make([]long, c.States)
 	for s, row := range c.Weights {
 		for t, weight := range row {
-			nums[t] = nums[t].plus(p.nums[s].times(longOf(uint64(weight))))
+			if weight > 0 {
+				nums[t] = nums[t].plus(p.nums[s].times(longOf(uint64(weight))))
+			}
 		}
 	}
 	return sharing{nums, p.den.times(longOf(uint64(c.Total)))}

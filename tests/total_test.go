@@ -81,6 +81,16 @@ var chapter7 = map[string]any{
 	"CollectorChance": impl.CollectorChance, "CollectorTime": impl.CollectorTime,
 }
 
+// chapter8 has the functions of chapter 8.
+var chapter8 = map[string]any{
+	"ValidGraph": impl.ValidGraph, "SameGraph": impl.SameGraph, "GraphText": impl.GraphText, "ReadGraph": impl.ReadGraph, "IsColouring": impl.IsColouring,
+	"CountColourings": impl.CountColourings, "ColouringsOf": impl.ColouringsOf, "FreeColours": impl.FreeColours, "Recolour": impl.Recolour, "RecolourChance": impl.RecolourChance,
+	"SpreadOfColourings": impl.SpreadOfColourings, "CanRecolour": impl.CanRecolour, "ColourChances": impl.ColourChances, "CountByChances": impl.CountByChances,
+	"EdgeRatio": impl.EdgeRatio, "ColourPolynomial": impl.ColourPolynomial, "IsIndependent": impl.IsIndependent, "IndependentCounts": impl.IndependentCounts,
+	"ChangeSet": impl.ChangeSet, "ChangeChance": impl.ChangeChance, "SetChance": impl.SetChance, "NodeChance": impl.NodeChance, "MatchingCounts": impl.MatchingCounts,
+	"LineGraph": impl.LineGraph,
+}
+
 // pool has arguments of each type, valid and invalid ones.
 func pool(r *rand.Rand) map[reflect.Type][]any {
 	numbers := []any{}
@@ -136,8 +146,10 @@ func pool(r *rand.Rand) map[reflect.Type][]any {
 	for _, m := range randoms {
 		texts = append(texts, mapsTextOf(m.(impl.Maps)))
 	}
+	graphs, graphTexts, colours := graphPool(r)
+	texts, lists = append(texts, graphTexts...), append(lists, colours...)
 	all := map[reflect.Type][]any{}
-	for _, list := range [][]any{numbers, fractions, spreads, chains, texts, lists, joints, costs, coupled, roads, randoms, orders} {
+	for _, list := range [][]any{numbers, fractions, spreads, chains, texts, lists, joints, costs, coupled, roads, randoms, orders, graphs} {
 		all[reflect.TypeOf(list[0])] = list
 	}
 	return all
@@ -229,6 +241,25 @@ func stopPool(r *rand.Rand) (stops []any) {
 		stops = append(stops, randomStops(r, states, r.Int63n(impl.MaxTimes+1)), surelyStopped(r, states), shortStops(r, states, r.Int63n(4)))
 	}
 	return stops
+}
+
+// graphPool has graphs, valid and invalid ones, their texts, and lists of colours
+// and parts.
+func graphPool(r *rand.Rand) (graphs, texts, lists []any) {
+	for _, g := range invalidGraphs() {
+		if len(slices.Concat(g.Edges...))+len(g.Edges) < 100 {
+			graphs, texts = append(graphs, g), append(texts, graphTextOf(g))
+		}
+	}
+	for range 100 {
+		g, q := randomGraph(r), 1+r.Int63n(impl.MaxColours)
+		graphs, texts = append(graphs, g), append(texts, graphTextOf(g))
+		lists = append(lists, randomPart(r, g, q))
+		if all := colouringsIn(g, q); len(all) > 0 {
+			lists = append(lists, all[r.Intn(len(all))])
+		}
+	}
+	return graphs, texts, lists
 }
 
 // copyOf copies a value with everything that it leads to. All slices get spare
@@ -371,7 +402,7 @@ func call(t *testing.T, name string, f reflect.Value, args []reflect.Value) {
 func TestAllArguments(t *testing.T) {
 	r := rand.New(rand.NewSource(1))
 	all := pool(r)
-	for _, chapter := range []map[string]any{chapter1, chapter2, chapter3, chapter4, chapter5, chapter6, chapter7} {
+	for _, chapter := range []map[string]any{chapter1, chapter2, chapter3, chapter4, chapter5, chapter6, chapter7, chapter8} {
 		for _, name := range slices.Sorted(maps.Keys(chapter)) {
 			f := reflect.ValueOf(chapter[name])
 			for range 2000 {
@@ -520,6 +551,38 @@ func TestStopArguments(t *testing.T) {
 	}
 }
 
+func TestCountingArguments(t *testing.T) {
+	r := rand.New(rand.NewSource(8))
+	for range 150 {
+		g, q, weight := randomGraph(r), 1+r.Int63n(impl.MaxColours), 1+r.Int63n(impl.MaxTotal)
+		colourings, sets, node := colouringsIn(g, q), apartSets(g), r.Int63n(g.Nodes)
+		from, to := sets[r.Intn(len(sets))], sets[r.Intn(len(sets))]
+		callFitting(t, chapter8, []fitting{
+			{"ValidGraph", []any{g}}, {"SameGraph", []any{g, g}}, {"ReadGraph", []any{graphTextOf(g)}}, {"CountColourings", []any{g, q}}, {"ColourPolynomial", []any{g}},
+			{"IsColouring", []any{g, q, make([]int64, g.Nodes)}}, {"FreeColours", []any{g, q, make([]int64, g.Nodes), node}}, {"IsIndependent", []any{g, from}},
+			{"IndependentCounts", []any{g}}, {"ChangeSet", []any{g, weight, from, node, r.Int63n(weight + 1)}}, {"ChangeChance", []any{g, weight, from, to}},
+			{"SetChance", []any{g, weight, from}}, {"NodeChance", []any{g, weight, node}}, {"MatchingCounts", []any{g}},
+		})
+		call(t, "GraphText", reflect.ValueOf(impl.GraphText), []reflect.Value{reflect.ValueOf(g)})
+		if len(g.Edges) > 0 && len(g.Edges) <= impl.MaxNodes {
+			callFitting(t, chapter8, []fitting{{"LineGraph", []any{g}}, {"EdgeRatio", []any{g, q, int64(0)}}})
+		}
+		if len(colourings) == 0 {
+			continue
+		}
+		one, other := colourings[r.Intn(len(colourings))], colourings[r.Intn(len(colourings))]
+		part := slices.Clone(one)
+		part[node] = -1
+		callFitting(t, chapter8, []fitting{
+			{"ColouringsOf", []any{g, q, part}}, {"Recolour", []any{g, q, one, node, int64(0)}}, {"RecolourChance", []any{g, q, one, other}}, {"ColourChances", []any{g, q, part, node}},
+			{"CountByChances", []any{g, q}},
+		})
+		if len(colourings) <= impl.MaxListed {
+			callFitting(t, chapter8, []fitting{{"SpreadOfColourings", []any{g, q, one, r.Int63n(impl.MaxSteps + 1)}}, {"CanRecolour", []any{g, q}}})
+		}
+	}
+}
+
 // TestLongestStops has as many states and times as there can be, and as long
 // numerals: the numbers on the way are far longer than those of a result.
 func TestLongestStops(t *testing.T) {
@@ -620,6 +683,42 @@ func TestLongArguments(t *testing.T) {
 	longMaps(t, list)
 	longCuts(t, []impl.Chain{wide, high}, list)
 	longStops(t, []impl.Chain{wide, high}, list)
+	longGraphs(t, list)
+}
+
+// longGraphs has graphs, lists of colours and sets of a million elements.
+func longGraphs(t *testing.T, list []int64) {
+	t.Helper()
+	g, rising := readGraph(t, exampleGraph), stayingTo(int64(len(list)))
+	for _, long := range []impl.Graph{
+		{Nodes: 3, Edges: make([][]int64, len(list))}, {Nodes: 3, Edges: [][]int64{rising}}, {Nodes: 3, Edges: slices.Repeat([][]int64{{0, 1}}, len(list)/3)},
+		{Nodes: int64(len(list)), Edges: [][]int64{list}},
+	} {
+		same(t, "ValidGraph", impl.ValidGraph(long), false)
+		same(t, "SameGraph", impl.SameGraph(long, long), true)
+		same(t, "SameGraph", impl.SameGraph(long, g), false)
+		same(t, "GraphText", impl.GraphText(long), "")
+		for _, one := range colouringCalls() {
+			code(t, one.name, impl.ErrInvalid, one.call(long, 3, list, 0)...)
+		}
+		for name, results := range setCalls(long, 1, list, 0, 0) {
+			code(t, name, impl.ErrInvalid, results...)
+		}
+		counts, got := impl.MatchingCounts(long)
+		code(t, "MatchingCounts", impl.ErrInvalid, counts, got)
+	}
+	for _, numbers := range [][]int64{list, rising} {
+		for _, one := range colouringCalls() {
+			if one.hasList {
+				code(t, one.name, impl.ErrRange, one.call(g, 3, numbers, 0)...)
+			}
+		}
+		for name, results := range setCalls(g, 1, numbers, 0, 0) {
+			code(t, name, impl.ErrRange, results...)
+		}
+	}
+	_, got := impl.ReadGraph(strings.Repeat("edge 0 1\n", len(list)/9))
+	same(t, "ReadGraph", got, int64(impl.ErrRange))
 }
 
 // longStops has chains, spreads, stops and decks of a million elements.
