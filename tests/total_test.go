@@ -91,10 +91,18 @@ var chapter8 = map[string]any{
 	"LineGraph": impl.LineGraph,
 }
 
+// chapter9 has the functions of chapter 9.
+var chapter9 = map[string]any{
+	"DrawsOf": impl.DrawsOf, "WindowByDraws": impl.WindowByDraws, "WindowOf": impl.WindowOf, "SampleOf": impl.SampleOf, "ValidService": impl.ValidService,
+	"ValidRecord": impl.ValidRecord, "JournalText": impl.JournalText, "ReadJournal": impl.ReadJournal, "DeskAfter": impl.DeskAfter, "ValidDeed": impl.ValidDeed,
+	"DeedText": impl.DeedText, "ReadDeed": impl.ReadDeed, "PlantAfter": impl.PlantAfter, "RefusedDeed": impl.RefusedDeed, "HandedOut": impl.HandedOut,
+	"FinishDeeds": impl.FinishDeeds, "RunScript": impl.RunScript,
+}
+
 // pool has arguments of each type, valid and invalid ones.
 func pool(r *rand.Rand) map[reflect.Type][]any {
 	numbers := []any{}
-	for _, n := range []int64{math.MinInt64, -1, 0, 0, 1, 1, 2, 3, 4, 5, 6, 7, 8, 9, 39, 40, 41, 59, 60, 61, 1 << 32, math.MaxInt64} {
+	for _, n := range []int64{math.MinInt64, -1, 0, 0, 1, 1, 2, 3, 4, 5, 6, 7, 8, 9, 39, 40, 41, 59, 60, 61, 64, 65, impl.MaxSeed, 1 << 32, math.MaxInt64} {
 		numbers = append(numbers, n)
 	}
 	fractions := []any{impl.Fraction{}}
@@ -151,6 +159,9 @@ func pool(r *rand.Rand) map[reflect.Type][]any {
 	all := map[reflect.Type][]any{}
 	for _, list := range [][]any{numbers, fractions, spreads, chains, texts, lists, joints, costs, coupled, roads, randoms, orders, graphs} {
 		all[reflect.TypeOf(list[0])] = list
+	}
+	for _, one := range samplerPool(r) {
+		all[reflect.TypeOf(one)] = append(all[reflect.TypeOf(one)], one)
 	}
 	return all
 }
@@ -262,6 +273,33 @@ func graphPool(r *rand.Rand) (graphs, texts, lists []any) {
 	return graphs, texts, lists
 }
 
+// samplerPool has services, records, deeds and their texts, valid and invalid ones.
+func samplerPool(r *rand.Rand) []any {
+	list := []any{}
+	for _, c := range invalidChains() {
+		list = append(list, impl.Service{Chain: c, Base: 1, Samples: 1, Workers: 1})
+	}
+	for _, d := range invalidDeeds() {
+		list = append(list, d, []impl.Deed{d}, []impl.Deed{deed(impl.DdSync, 0), d})
+	}
+	for range 60 {
+		v := impl.Service{Chain: smallChain(r, 1+r.Int63n(3)), Base: r.Int63n(100), Samples: 1 + r.Int63n(impl.MaxSamples), Workers: 1 + r.Int63n(impl.MaxWorkers)}
+		records, lines := fittingRecords(r, v, r.Intn(8)), []string{}
+		deeds, _ := someDeeds(r, v, r.Intn(60))
+		for _, d := range deeds {
+			list, lines = append(list, d), append(lines, deedLine(d))
+		}
+		for _, one := range records {
+			list = append(list, one)
+		}
+		list = append(list, v, records, deeds, recordLines(records), recordLines(records)+"up 0", strings.Join(lines, "\n"), deedLine(deed(impl.DdQuit, r.Int63n(1000))))
+	}
+	for _, one := range invalidRecords(impl.Service{Chain: impl.Chain{States: 2}, Samples: 2}) {
+		list = append(list, one, []impl.Record{one})
+	}
+	return append(list, slices.Repeat(deedsOf("work 0"), impl.MaxDeeds), slices.Repeat(deedsOf("work 0"), impl.MaxDeeds+1), "handed\nlevels\njournal")
+}
+
 // copyOf copies a value with everything that it leads to. All slices get spare
 // memory behind them, which is 0; empty slices become nil or the other way round,
 // if turn is set.
@@ -337,15 +375,24 @@ func scribble(values []reflect.Value) {
 	for _, v := range values {
 		slicesIn(v, func(list reflect.Value) {
 			for i := range list.Len() {
-				if list.Index(i).Kind() == reflect.Int64 {
-					list.Index(i).SetInt(-77)
-				} else if list.Index(i).Kind() == reflect.Bool {
-					list.Index(i).SetBool(!list.Index(i).Bool())
-				} else if list.Index(i).Type() == reflect.TypeFor[impl.Fraction]() {
-					list.Index(i).Set(reflect.ValueOf(impl.Fraction{Num: "scribbled", Den: "over"}))
-				}
+				scribbleOn(list.Index(i))
 			}
 		})
+	}
+}
+
+func scribbleOn(v reflect.Value) {
+	switch v.Kind() {
+	case reflect.Int64:
+		v.SetInt(-77)
+	case reflect.Bool:
+		v.SetBool(!v.Bool())
+	case reflect.String:
+		v.SetString("scribbled")
+	case reflect.Struct:
+		for i := range v.NumField() {
+			scribbleOn(v.Field(i))
+		}
 	}
 }
 
@@ -402,7 +449,7 @@ func call(t *testing.T, name string, f reflect.Value, args []reflect.Value) {
 func TestAllArguments(t *testing.T) {
 	r := rand.New(rand.NewSource(1))
 	all := pool(r)
-	for _, chapter := range []map[string]any{chapter1, chapter2, chapter3, chapter4, chapter5, chapter6, chapter7, chapter8} {
+	for _, chapter := range []map[string]any{chapter1, chapter2, chapter3, chapter4, chapter5, chapter6, chapter7, chapter8, chapter9} {
 		for _, name := range slices.Sorted(maps.Keys(chapter)) {
 			f := reflect.ValueOf(chapter[name])
 			for range 2000 {
@@ -583,6 +630,30 @@ func TestCountingArguments(t *testing.T) {
 	}
 }
 
+func TestSamplerArguments(t *testing.T) {
+	r := rand.New(rand.NewSource(9))
+	for range 100 {
+		v := someService(t, r)
+		c, total, count := v.Chain, 1+r.Int63n(impl.MaxTotal), r.Int63n(impl.MaxWindow+1)
+		seed, level, records := someSeed(r), r.Int63n(impl.MaxLevels), fittingRecords(r, v, r.Intn(20))
+		deeds, _ := someDeeds(r, v, r.Intn(100))
+		lines, _ := someLines(r, v, r.Intn(40))
+		d := deed(impl.DdDrop, r.Int63n(1000))
+		callFitting(t, chapter9, []fitting{
+			{"DrawsOf", []any{seed, total, count}}, {"WindowByDraws", []any{c, drawsIn(seed, c.Total, int(count))}}, {"WindowOf", []any{c, seed, level}}, {"ValidService", []any{v}},
+			{"ReadJournal", []any{v, recordLines(records) + "torn"}}, {"DeskAfter", []any{v, records}}, {"ValidDeed", []any{d}}, {"ReadDeed", []any{deedLine(d)}},
+			{"PlantAfter", []any{v, deeds}}, {"HandedOut", []any{v, deeds}}, {"FinishDeeds", []any{v, deeds}}, {"RunScript", []any{v, strings.Join(lines, "\n")}},
+		})
+		call(t, "SampleOf", reflect.ValueOf(impl.SampleOf), []reflect.Value{reflect.ValueOf(c), reflect.ValueOf(seed)})
+		call(t, "JournalText", reflect.ValueOf(impl.JournalText), []reflect.Value{reflect.ValueOf(v), reflect.ValueOf(records)})
+		call(t, "DeedText", reflect.ValueOf(impl.DeedText), []reflect.Value{reflect.ValueOf(d)})
+		call(t, "RefusedDeed", reflect.ValueOf(impl.RefusedDeed), []reflect.Value{reflect.ValueOf(v), reflect.ValueOf(deeds)})
+		for _, one := range records {
+			callFitting(t, chapter9, []fitting{{"ValidRecord", []any{v, one}}})
+		}
+	}
+}
+
 // TestLongestStops has as many states and times as there can be, and as long
 // numerals: the numbers on the way are far longer than those of a result.
 func TestLongestStops(t *testing.T) {
@@ -684,6 +755,45 @@ func TestLongArguments(t *testing.T) {
 	longCuts(t, []impl.Chain{wide, high}, list)
 	longStops(t, []impl.Chain{wide, high}, list)
 	longGraphs(t, list)
+	longServices(t, []impl.Chain{wide, high}, list)
+}
+
+// longServices has chains, draws, records, deeds and texts of a million elements.
+func longServices(t *testing.T, chains []impl.Chain, list []int64) {
+	t.Helper()
+	v, text := serviceOf(t, fairCoin, 1, impl.MaxSamples, impl.MaxWorkers), strings.Repeat("sync\n", len(list)/5)
+	records := slices.Repeat([]impl.Record{record(impl.RcUp, 0, 1)}, len(list)/3)
+	met, s, got := impl.WindowByDraws(v.Chain, list)
+	code(t, "WindowByDraws", impl.ErrRange, met, s, got)
+	same(t, "JournalText", len(impl.JournalText(v, records)), 7*len(records))
+	d, got := impl.DeskAfter(v, records)
+	code(t, "DeskAfter", impl.ErrState, d, got)
+	read, got := impl.ReadJournal(v, text)
+	code(t, "ReadJournal", impl.ErrRange, read, got)
+	one, got := impl.ReadDeed(text)
+	code(t, "ReadDeed", impl.ErrSyntax, one, got)
+	answers, got := impl.RunScript(v, text)
+	code(t, "RunScript", impl.ErrRange, answers, got)
+	deeds := slices.Repeat(deedsOf("out"), len(list)/2)
+	deedCodes(t, "many deeds", impl.ErrRange, v, deeds)
+	deedCodes(t, "many deeds", impl.ErrInvalid, v, make([]impl.Deed, len(list)/2))
+	for _, long := range chains {
+		v.Chain = long
+		met, s, got = impl.WindowByDraws(long, list)
+		code(t, "WindowByDraws", impl.ErrInvalid, met, s, got)
+		met, s, got = impl.WindowOf(long, 1, 1)
+		code(t, "WindowOf", impl.ErrInvalid, met, s, got)
+		s, level, got := impl.SampleOf(long, 1)
+		code(t, "SampleOf", impl.ErrInvalid, s, level, got)
+		same(t, "ValidService", impl.ValidService(v) || impl.ValidRecord(v, records[0]) || impl.JournalText(v, records) != "", false)
+		read, got = impl.ReadJournal(v, text)
+		code(t, "ReadJournal", impl.ErrInvalid, read, got)
+		d, got = impl.DeskAfter(v, records)
+		code(t, "DeskAfter", impl.ErrInvalid, d, got)
+		answers, got = impl.RunScript(v, text)
+		code(t, "RunScript", impl.ErrInvalid, answers, got)
+		deedCodes(t, "a long chain", impl.ErrInvalid, v, deeds)
+	}
 }
 
 // longGraphs has graphs, lists of colours and sets of a million elements.
